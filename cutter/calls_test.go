@@ -1,0 +1,94 @@
+package cutter_test
+
+import (
+	"math/rand"
+	"slices"
+	"strings"
+	"sync"
+	"testing"
+
+	"cutter/cutter"
+)
+
+// TestNoCallPanics is for P1: bytes of all kinds, and the form of an answer.
+func TestNoCallPanics(t *testing.T) {
+	r := rand.New(rand.NewSource(3))
+	for range 20000 {
+		file, text := someFile(r), someBytes(r, 10, textParts...)
+		switch r.Intn(3) {
+		case 0:
+			b := make([]byte, r.Intn(230))
+			r.Read(b)
+			file = string(b)
+		case 1:
+			b := []byte(file + ";")
+			b[r.Intn(len(b))] = byte(r.Intn(256))
+			file = string(b)
+		}
+		no, at := cutter.Check(file)
+		if at < 0 || at > len(file) || (no == cutter.OK || no == cutter.ErrLong) && at != 0 || no < cutter.OK || no > cutter.ErrName {
+			t.Fatalf("P1: Check(%q) = %d %d", file, no, at)
+		}
+		letters, no1, at1 := cutter.Classes(file, text)
+		cuts, no2, at2 := cutter.Cut(file, text)
+		if no1 != no || no2 != no || at1 != at || at2 != at {
+			t.Fatalf("P1: with %q Check answers %d %d, Classes %d %d, Cut %d %d", file, no, at, no1, at1, no2, at2)
+		}
+		if no != cutter.OK && (letters != "" || len(cuts) != 0) {
+			t.Fatalf("P1: with %q beside error %d: %q %v", file, no, letters, cuts)
+		}
+	}
+}
+
+// TestLongTexts is for P1: a long text takes no more than going over it once,
+// by files that give the machine many states too.
+func TestLongTexts(t *testing.T) {
+	r := rand.New(rand.NewSource(4))
+	b := make([]byte, 1<<20)
+	for i := range b {
+		b[i] = "abc"[r.Intn(3)]
+	}
+	text := string(b)
+	for _, file := range []string{
+		"!", "", ".*.*.*.*!;....|",
+		"A=a;B=b;A...!;B...!;AAA.*!;AAB.*!;ABA.*!;ABB.*!;BAA.*!;BAB.*!;BBA.*!;BBB.*!",
+		"A=a;B=b;C=c;A.*B.*!;B.*C.*!;C.*A.*!;B.*A.*!;C.*B.*!;A.*C.*!;A...!;B...!;C...!",
+	} {
+		cuts, no, _ := cutter.Cut(file, text)
+		if no != cutter.OK || cuts[0] != 0 || cuts[len(cuts)-1] != len(text) {
+			t.Errorf("P1: Cut(%q, a long text) = %d cuts, error %d", file, len(cuts), no)
+		}
+	}
+	letters, no, _ := cutter.Classes("A=a;C=b;B=c", text)
+	if want := strings.NewReplacer("a", "A", "b", "C", "c", "B").Replace(text); letters != want || no != cutter.OK {
+		t.Errorf("P4: Classes of a long text: %d letters, error %d", len(letters), no)
+	}
+}
+
+// TestAnswersHangOnArgumentsAlone is for P2: calls between, at the same time,
+// and a list that the caller has changed, change nothing.
+func TestAnswersHangOnArgumentsAlone(t *testing.T) {
+	const file, text = "A=a-z0-9;S= ;A!A;S*!S;S|;!", "two  words"
+	want := []int{0, 5, 10}
+	var all sync.WaitGroup
+	for range 8 {
+		all.Go(func() {
+			for range 200 {
+				cutter.Check("A=b-a")
+				cutter.Cut("A=a;A=b", text)
+				cutter.Cut("A= ;!A;|", text)
+				cutter.Classes("B=a-z", text)
+				got, no, at := cutter.Cut(file, text)
+				letters, _, _ := cutter.Classes(file, text)
+				if !slices.Equal(got, want) || no != cutter.OK || at != 0 || letters != "AAASSAAAAA" {
+					t.Errorf("P2: Cut = %v %d %d, Classes = %q", got, no, at, letters)
+					return
+				}
+				for i := range got[:cap(got)] {
+					got[:cap(got)][i] = -1
+				}
+			}
+		})
+	}
+	all.Wait()
+}

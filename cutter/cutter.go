@@ -1,0 +1,65 @@
+// Package cutter: rules that say where texts may be cut, at once, in a stream, or by many hands: see DOC.md.
+package cutter
+
+// Errno is what a call answers: OK or the reason for a refusal.
+type Errno int
+
+const (
+	OK         Errno = 0
+	ErrLong    Errno = 1 // a file above its bound
+	ErrText    Errno = 2 // no file
+	ErrTwice   Errno = 3 // a name, or a character, of two classes
+	ErrOrder   Errno = 4 // an item the wrong way round
+	ErrName    Errno = 5 // no such class
+	ErrPlace   Errno = 6 // a place that may not be
+	ErrWorkers Errno = 7 // too few or too many workers
+)
+
+// Check tells whether a text is a file (P3).
+func Check(file string) (Errno, int) {
+	_, err := readBook(file)
+	return told(err)
+}
+
+// Classes tells the class of each character (P4).
+func Classes(file string, t string) (string, Errno, int) {
+	b, err := readBook(file)
+	if err != nil {
+		no, at := told(err)
+		return "", no, at
+	}
+	chars := b.split(t)
+	letters := make([]byte, len(chars))
+	for i, c := range chars {
+		letters[i] = signLetters[c.symbol]
+	}
+	return string(letters), OK, 0
+}
+
+// Cut tells the cuts of a text (P5).
+func Cut(file string, t string) ([]int, Errno, int) {
+	b, err := readBook(file)
+	if err != nil {
+		no, at := told(err)
+		return nil, no, at
+	}
+	return newMachine(b.rules).cuts(b.split(t), len(t)), OK, 0
+}
+
+// Next tells the next cut behind a place (P6).
+func Next(file string, t string, at int) (int, Errno, int) { return 0, 0, 0 }
+
+// Share tells the cuts of a text that is dealt out (P7).
+func Share(file string, t string, cuts []int, workers int) ([]int, Errno, int) { return nil, 0, 0 }
+
+// Stream is a text that comes in pieces. Make it by Open.
+type Stream struct{}
+
+// Open makes a stream (P8).
+func Open(file string) (*Stream, Errno, int) { return nil, 0, 0 }
+
+// Feed takes a piece, and tells what is settled (P9).
+func (s *Stream) Feed(b string) []int { return nil }
+
+// End tells the rest (P9).
+func (s *Stream) End() []int { return nil }
