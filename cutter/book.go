@@ -5,11 +5,19 @@ import (
 	"slices"
 )
 
-// book is what a file means: its classes and its rules.
+// ruleSet is a set of the rules of a file, a bit for each: there are at most
+// maxLines of them.
+type ruleSet uint16
+
+// book is what a file means: its classes and its rules. Nothing changes it
+// once it is read, so that many hands can use it at the same time.
 type book struct {
 	named [names]bool
 	items []item
 	rules []rule
+	// For the first character behind a place and for the second one: the
+	// rules on whose right side it can stand there.
+	right [maxRight][symbols + 1]ruleSet
 }
 
 func readBook(file string) (*book, error) {
@@ -72,8 +80,19 @@ func (b *book) addRule(r rule) error {
 			return broken{ErrName, s.at}
 		}
 	}
+	b.addRight(r.right, 1<<len(b.rules))
 	b.rules = append(b.rules, r)
 	return nil
+}
+
+func (b *book) addRight(right []sign, rule ruleSet) {
+	for i := range b.right {
+		for symbol := range b.right[i] {
+			if i >= len(right) || right[i].stands(symbol) {
+				b.right[i][symbol] |= rule
+			}
+		}
+	}
 }
 
 // symbol tells the class of a well-formed character, or none.

@@ -1,6 +1,7 @@
 package cutter_test
 
 import (
+	"math"
 	"math/rand"
 	"slices"
 	"strings"
@@ -37,6 +38,30 @@ func TestNoCallPanics(t *testing.T) {
 		if no != cutter.OK && (letters != "" || len(cuts) != 0) {
 			t.Fatalf("P1: with %q beside error %d: %q %v", file, no, letters, cuts)
 		}
+		tryWildNumbers(t, r, file, text)
+	}
+}
+
+// tryWildNumbers is for P1: numbers and lists of all kinds.
+func tryWildNumbers(t *testing.T, r *rand.Rand, file, text string) {
+	t.Helper()
+	wild := func() int {
+		return []int{math.MinInt, -1, 0, 1, 2, len(text) / 2, len(text) - 1, len(text), len(text) + 1, 64, 65, math.MaxInt}[r.Intn(12)]
+	}
+	places := make([]int, r.Intn(4))
+	for i := range places {
+		places[i] = wild()
+	}
+	fileNo, fileAt := cutter.Check(file)
+	at := wild()
+	next, no, place := cutter.Next(file, text, at)
+	if no == cutter.OK && next <= at || no != cutter.OK && next != 0 || no != cutter.ErrPlace && (no != fileNo || place != fileAt) {
+		t.Fatalf("P1: Next(%q, %q, %d) = %d %d %d", file, text, at, next, no, place)
+	}
+	workers := wild()
+	cuts, no, place := cutter.Share(file, text, places, workers)
+	if no != cutter.OK && len(cuts) != 0 || no < cutter.ErrPlace && (no != fileNo || place != fileAt) || no > cutter.ErrWorkers {
+		t.Fatalf("P1: Share(%q, %q, %v, %d) = %v %d %d", file, text, places, workers, cuts, no, place)
 	}
 }
 
@@ -78,17 +103,32 @@ func TestAnswersHangOnArgumentsAlone(t *testing.T) {
 				cutter.Cut("A=a;A=b", text)
 				cutter.Cut("A= ;!A;|", text)
 				cutter.Classes("B=a-z", text)
+				cutter.Share("A= ;!A;|", text, []int{2, 7}, 3)
+				if next, _, _ := cutter.Next(file, text, 0); next != 5 {
+					t.Errorf("P2: Next = %d", next)
+				}
+				shared, _, _ := cutter.Share(file, text, []int{4, 6}, 2)
+				if !slices.Equal(shared, want) {
+					t.Errorf("P2: Share = %v", shared)
+				}
+				spoil(shared)
 				got, no, at := cutter.Cut(file, text)
 				letters, _, _ := cutter.Classes(file, text)
 				if !slices.Equal(got, want) || no != cutter.OK || at != 0 || letters != "AAASSAAAAA" {
 					t.Errorf("P2: Cut = %v %d %d, Classes = %q", got, no, at, letters)
 					return
 				}
-				for i := range got[:cap(got)] {
-					got[:cap(got)][i] = -1
-				}
+				spoil(got)
 			}
 		})
 	}
 	all.Wait()
+}
+
+// spoil does to a list that was answered what its owner may do.
+func spoil(list []int) {
+	list = list[:cap(list)]
+	for i := range list {
+		list[i] = -1
+	}
 }

@@ -1,6 +1,8 @@
 // Package cutter: rules that say where texts may be cut, at once, in a stream, or by many hands: see DOC.md.
 package cutter
 
+import "slices"
+
 // Errno is what a call answers: OK or the reason for a refusal.
 type Errno int
 
@@ -28,7 +30,7 @@ func Classes(file string, t string) (string, Errno, int) {
 		no, at := told(err)
 		return "", no, at
 	}
-	chars := b.split(t)
+	chars := b.split(t, 0, len(t))
 	letters := make([]byte, len(chars))
 	for i, c := range chars {
 		letters[i] = signLetters[c.symbol]
@@ -43,14 +45,40 @@ func Cut(file string, t string) ([]int, Errno, int) {
 		no, at := told(err)
 		return nil, no, at
 	}
-	return newMachine(b.rules).cuts(b.split(t), len(t)), OK, 0
+	parts := [][]char{b.split(t, 0, len(t))}
+	return newMachine(b.rules).cuts(parts, len(t)), OK, 0
 }
 
 // Next tells the next cut behind a place (P6).
-func Next(file string, t string, at int) (int, Errno, int) { return 0, 0, 0 }
+func Next(file string, t string, at int) (int, Errno, int) {
+	cuts, no, place := Cut(file, t)
+	if no != OK {
+		return 0, no, place
+	}
+	// The length is the greatest cut, or where the text is empty there is none.
+	if at < 0 || at >= len(t) {
+		return 0, ErrPlace, 0
+	}
+	which, _ := slices.BinarySearch(cuts, at+1)
+	return cuts[which], OK, 0
+}
 
 // Share tells the cuts of a text that is dealt out (P7).
-func Share(file string, t string, cuts []int, workers int) ([]int, Errno, int) { return nil, 0, 0 }
+func Share(file string, t string, cuts []int, workers int) ([]int, Errno, int) {
+	b, err := readBook(file)
+	if err != nil {
+		no, at := told(err)
+		return nil, no, at
+	}
+	if amiss := firstAmiss(cuts, len(t)); amiss >= 0 {
+		return nil, ErrPlace, amiss
+	}
+	if workers < 1 || workers > maxWorkers {
+		return nil, ErrWorkers, 0
+	}
+	parts := b.splitShared(t, cuts, workers)
+	return newMachine(b.rules).cuts(parts, len(t)), OK, 0
+}
 
 // Stream is a text that comes in pieces. Make it by Open.
 type Stream struct{}

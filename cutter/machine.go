@@ -21,7 +21,6 @@ type machine struct {
 type side struct {
 	last  atoms // with which the left side can end
 	empty bool  // the left side can be no characters at all
-	right []sign
 	cut   bool
 }
 
@@ -29,7 +28,7 @@ type side struct {
 // to may be thousands, and most texts come to few.
 type state struct {
 	met  atoms
-	fits uint16       // a bit for each rule whose left side can end here
+	fits ruleSet      // those whose left side can end here
 	next [symbols]int // 0 is not yet known
 }
 
@@ -44,7 +43,7 @@ func newMachine(rules []rule) *machine {
 	for _, r := range rules {
 		whole := m.lay(r.left)
 		m.first |= whole.first
-		m.sides = append(m.sides, side{whole.last, whole.empty, r.right, r.cut})
+		m.sides = append(m.sides, side{whole.last, whole.empty, r.cut})
 	}
 	return m
 }
@@ -143,40 +142,27 @@ func (m *machine) find(met atoms) int {
 }
 
 // cutsAt tells whether there is a cut at the place behind the characters that
-// led to the state, with those others behind it.
-func (m *machine) cutsAt(at int, behind []char) bool {
-	for number, rule := range m.sides {
-		if m.states[at].fits>>number&1 == 1 && stand(rule.right, behind) {
-			return rule.cut
-		}
-	}
-	return true
+// led to the state, where the right sides of those rules stand.
+func (m *machine) cutsAt(at int, stand ruleSet) bool {
+	fit := m.states[at].fits & stand
+	return fit == 0 || m.sides[bits.TrailingZeros16(uint16(fit))].cut
 }
 
-func stand(right []sign, behind []char) bool {
-	if len(right) > len(behind) {
-		return false
-	}
-	for i, s := range right {
-		if !s.stands(behind[i].symbol) {
-			return false
-		}
-	}
-	return true
-}
-
-// cuts tells the cuts of a text of that many bytes.
-func (m *machine) cuts(chars []char, length int) []int {
-	if len(chars) == 0 {
+// cuts tells the cuts of a text of that many bytes, whose characters come in
+// parts.
+func (m *machine) cuts(parts [][]char, length int) []int {
+	if length == 0 {
 		return nil
 	}
-	all := []int{0}
-	at := m.step(m.start(), chars[0].symbol)
-	for i := 1; i < len(chars); i++ {
-		if m.cutsAt(at, chars[i:]) {
-			all = append(all, chars[i].at)
+	var all []int
+	at := m.start()
+	for _, part := range parts {
+		for _, c := range part {
+			if c.at == 0 || m.cutsAt(at, c.stand) {
+				all = append(all, c.at)
+			}
+			at = m.step(at, c.symbol)
 		}
-		at = m.step(at, chars[i].symbol)
 	}
 	return append(all, length)
 }

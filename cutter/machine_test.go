@@ -12,12 +12,12 @@ func TestStatesAreFoundAgain(t *testing.T) {
 		t.Fatal(err)
 	}
 	m := newMachine(b.rules)
-	round := b.split("aabbaxbab")
-	m.cuts(round, 9)
-	m.cuts(append(round, round...), 18)
+	round := b.split("aabbaxbab", 0, 9)
+	m.cuts([][]char{round}, 9)
+	m.cuts([][]char{round, round}, 18)
 	made := len(m.states)
 	for range 5 {
-		m.cuts(append(round, round...), 18)
+		m.cuts([][]char{round, round}, 18)
 	}
 	if len(m.states) != made || len(m.found) != made-1 {
 		t.Errorf("%d states at first, then %d, in the map %d", made, len(m.states), len(m.found))

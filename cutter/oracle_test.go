@@ -179,6 +179,15 @@ func someFile(r *rand.Rand) string {
 	return strings.Join(lines, ";")
 }
 
+func someSoundFile(r *rand.Rand) string {
+	for {
+		file := someFile(r)
+		if no, _ := cutter.Check(file); no == cutter.OK {
+			return file
+		}
+	}
+}
+
 var textParts = []string{"a", "a", "b", "x", "x", "y", " ", "0", "é", "€", "\ufffd", "😀", "\x80", "\xc3", "\xe2\x82", "\xf0\x9f", "\xed\xa0\x80", ";", "\x00"}
 
 func TestCheckAgainstSlowCheck(t *testing.T) {

@@ -8,6 +8,7 @@ const (
 	none    = names
 	anyone  = names + 1
 	symbols = names + 1 // what a character can be: of a class, or of none
+	end     = symbols   // what stands behind the last character
 
 	signLetters = "ABCDEFGHIJKLMNOPQRSTUVWXYZ_."
 )
@@ -57,7 +58,8 @@ func signsOf(n node) []sign {
 	return nil
 }
 
-// stands tells whether a character of that symbol is of the sign.
+// stands tells whether a character of that symbol is of the sign. The end is
+// no character, so it is of none.
 func (s sign) stands(symbol int) bool {
-	return s.kind == anyone || s.kind == symbol
+	return symbol != end && (s.kind == anyone || s.kind == symbol)
 }
