@@ -39,6 +39,32 @@ func TestNoCallPanics(t *testing.T) {
 			t.Fatalf("P1: with %q beside error %d: %q %v", file, no, letters, cuts)
 		}
 		tryWildNumbers(t, r, file, text)
+		tryWildPieces(t, r, file, text)
+	}
+}
+
+// tryWildPieces is for P1: what Open answers, and pieces of all kinds.
+func tryWildPieces(t *testing.T, r *rand.Rand, file, text string) {
+	t.Helper()
+	fileNo, fileAt := cutter.Check(file)
+	s, no, at := cutter.Open(file)
+	if no != fileNo || at != fileAt || (s == nil) != (no != cutter.OK) {
+		t.Fatalf("P1: Open(%q) = a stream: %v, %d %d", file, s != nil, no, at)
+	}
+	if s == nil {
+		return
+	}
+	last := -1
+	for _, piece := range inPieces(r, text) {
+		for _, cut := range s.Feed(piece) {
+			if cut <= last || cut >= len(text) {
+				t.Fatalf("P1: by %q, of %q, Feed(%q) tells %d behind %d", file, text, piece, cut, last)
+			}
+			last = cut
+		}
+	}
+	if cuts := s.End(); text != "" && (len(cuts) == 0 || cuts[0] <= last || cuts[len(cuts)-1] != len(text)) {
+		t.Fatalf("P1: by %q, End of %q tells %v behind %d", file, text, cuts, last)
 	}
 }
 
@@ -104,6 +130,9 @@ func TestAnswersHangOnArgumentsAlone(t *testing.T) {
 				cutter.Cut("A= ;!A;|", text)
 				cutter.Classes("B=a-z", text)
 				cutter.Share("A= ;!A;|", text, []int{2, 7}, 3)
+				if other, _, _ := cutter.Open("A= ;!A;|"); len(other.Feed(text)) == 0 {
+					t.Error("P9: Feed tells nothing")
+				}
 				if next, _, _ := cutter.Next(file, text, 0); next != 5 {
 					t.Errorf("P2: Next = %d", next)
 				}
@@ -112,6 +141,10 @@ func TestAnswersHangOnArgumentsAlone(t *testing.T) {
 					t.Errorf("P2: Share = %v", shared)
 				}
 				spoil(shared)
+				stream, _, _ := cutter.Open(file)
+				if told := append(stream.Feed(text), stream.End()...); !slices.Equal(told, want) {
+					t.Errorf("P2: Feed and End = %v", told)
+				}
 				got, no, at := cutter.Cut(file, text)
 				letters, _, _ := cutter.Classes(file, text)
 				if !slices.Equal(got, want) || no != cutter.OK || at != 0 || letters != "AAASSAAAAA" {

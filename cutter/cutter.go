@@ -1,7 +1,10 @@
 // Package cutter: rules that say where texts may be cut, at once, in a stream, or by many hands: see DOC.md.
 package cutter
 
-import "slices"
+import (
+	"slices"
+	"strings"
+)
 
 // Errno is what a call answers: OK or the reason for a refusal.
 type Errno int
@@ -81,13 +84,48 @@ func Share(file string, t string, cuts []int, workers int) ([]int, Errno, int) {
 }
 
 // Stream is a text that comes in pieces. Make it by Open.
-type Stream struct{}
+type Stream struct {
+	book    *book
+	machine *machine
+	state   int    // behind the characters that are done with
+	at      int    // how many bytes those have
+	rest    string // what has come behind them
+}
 
 // Open makes a stream (P8).
-func Open(file string) (*Stream, Errno, int) { return nil, 0, 0 }
+func Open(file string) (*Stream, Errno, int) {
+	b, err := readBook(file)
+	if err != nil {
+		no, at := told(err)
+		return nil, no, at
+	}
+	s := &Stream{book: b, machine: newMachine(b.rules)}
+	s.begin()
+	return s, OK, 0
+}
 
 // Feed takes a piece, and tells what is settled (P9).
-func (s *Stream) Feed(b string) []int { return nil }
+func (s *Stream) Feed(b string) []int {
+	if !s.isOpen() {
+		return nil
+	}
+	text := s.rest + b
+	to := lastSettled(text)
+	cuts := s.pass(text, to)
+	// A copy, so that nothing of the piece is kept but these few bytes.
+	s.rest = strings.Clone(text[to:])
+	return cuts
+}
 
 // End tells the rest (P9).
-func (s *Stream) End() []int { return nil }
+func (s *Stream) End() []int {
+	if !s.isOpen() {
+		return nil
+	}
+	cuts := s.pass(s.rest, len(s.rest))
+	if s.at > 0 {
+		cuts = append(cuts, s.at)
+	}
+	s.begin()
+	return cuts
+}

@@ -148,6 +148,18 @@ func (m *machine) cutsAt(at int, stand ruleSet) bool {
 	return fit == 0 || m.sides[bits.TrailingZeros16(uint16(fit))].cut
 }
 
+// pass goes over characters from a state on. It answers the state behind them,
+// and the cuts with the places ahead of them added that are some.
+func (m *machine) pass(from int, chars []char, cuts []int) (int, []int) {
+	for _, c := range chars {
+		if c.at == 0 || m.cutsAt(from, c.stand) {
+			cuts = append(cuts, c.at)
+		}
+		from = m.step(from, c.symbol)
+	}
+	return from, cuts
+}
+
 // cuts tells the cuts of a text of that many bytes, whose characters come in
 // parts.
 func (m *machine) cuts(parts [][]char, length int) []int {
@@ -157,12 +169,7 @@ func (m *machine) cuts(parts [][]char, length int) []int {
 	var all []int
 	at := m.start()
 	for _, part := range parts {
-		for _, c := range part {
-			if c.at == 0 || m.cutsAt(at, c.stand) {
-				all = append(all, c.at)
-			}
-			at = m.step(at, c.symbol)
-		}
+		at, all = m.pass(at, part, all)
 	}
 	return append(all, length)
 }
